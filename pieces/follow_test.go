@@ -8,20 +8,24 @@ import (
 	"bolter/reader"
 )
 
-// goThrough pushes pieces into a feed up to its first fault, or closes it, and answers all values, the feed in the end and the fault.
+// goThrough pushes all pieces into a feed, those behind a fault too, and closes it; it answers all values, the feed in the end and the first error.
 func goThrough(t *testing.T, f Feed, l [][]byte) answer {
 	t.Helper()
 	got := answer{left: f}
 	take := func(left Feed, told []api.Value, e api.Errno) {
-		if g := Check(left); g != api.OK || left.Fault != e || e != api.OK && len(left.Held) > 0 {
+		if g := Check(left); g != api.OK || e != api.OK && left.Fault != e || left.Fault != api.OK && len(left.Held) > 0 {
 			t.Errorf("%d pieces %s: %v: no such feed: error %d", len(l), show(l), answer{left, told, e}, g)
 		}
-		got = answer{left, append(got.told, told...), e}
+		if got.e != api.OK && (len(told) > 0 || left.At != got.left.At || left.Fault != got.left.Fault) {
+			t.Errorf("%d pieces %s: %v: a feed with a fault does not stay: %v", len(l), show(l), got, answer{left, told, e})
+		}
+		got.left, got.told = left, append(got.told, told...)
+		if got.e == api.OK {
+			got.e = e
+		}
 	}
 	for _, piece := range l {
-		if take(Push(got.left, piece)); got.e != api.OK {
-			return got
-		}
+		take(Push(got.left, piece))
 	}
 	take(Close(got.left))
 	return got
@@ -119,6 +123,25 @@ func TestP83Short(t *testing.T) {
 			if t.Failed() {
 				return
 			}
+		}
+	}
+}
+
+// TestP83Behind: what comes behind a fault, in whatever pieces, changes nothing.
+func TestP83Behind(t *testing.T) {
+	for _, l := range [][]string{{"  ]", "1"}, {"  ]", "1", "2 "}, {"1 ", "]", "2 ", "3 "}, {"[1", ",2]", "}", "", "4 ", "5 "}, {"x", "", "x", "", "["}, {"1 \xff", "\xff", "[", "]"}, {"1e1001", " ", "1 ", "1e1001 "}} {
+		var parts [][]byte
+		for _, s := range l {
+			parts = append(parts, []byte(s))
+		}
+		told, place, e := reader.All(slices.Concat(parts...))
+		checkPieces(t, parts, told, place, e)
+	}
+	for _, c := range faults() {
+		// What a fault ahead of the end is, is told without what comes behind it.
+		for _, more := range somePieces() {
+			parts := [][]byte{[]byte(c.s), []byte(more), nil, []byte("1 "), []byte(more), []byte("]"), {}}
+			checkPieces(t, parts, c.ahead(), c.place, c.e)
 		}
 	}
 }

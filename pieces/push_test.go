@@ -38,16 +38,21 @@ func TestP81Wrong(t *testing.T) {
 	}
 }
 
-// TestP81Fault: a feed that has a fault takes nothing; of an empty piece it stays as it is.
+// TestP81Fault: a feed that has a fault takes nothing and stays as it is, however often something is pushed to it; of an empty piece it tells none.
 func TestP81Fault(t *testing.T) {
 	for _, f := range faulty() {
+		left := f
 		for _, piece := range somePieces() {
-			want := answer{e: f.Fault}
+			want := answer{left: f, e: f.Fault}
 			if piece == "" {
-				want = answer{left: f}
+				want.e = api.OK
 			}
 			check(t, fmt.Sprintf("Push of fault %d and %s", f.Fault, show(piece)), pushed(f, piece), want)
+			got := pushed(left, piece)
+			check(t, fmt.Sprintf("Push of fault %d, behind others, and %s", f.Fault, show(piece)), got, want)
+			left = got.left
 		}
+		check(t, fmt.Sprintf("Close of fault %d behind pushes", f.Fault), closed(left), answer{left: f, e: f.Fault})
 		for _, piece := range [][]byte{nil, {}, make([]byte, 0, 9)} {
 			left, told, e := Push(f, piece)
 			check(t, "Push of a fault and an empty piece", answer{left, told, e}, answer{left: f})
